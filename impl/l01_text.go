@@ -77,11 +77,15 @@ func Join(l []string, by string) string {
 }
 
 func FormatInts(l []int) string {
+	return joinInts(l, " ")
+}
+
+func joinInts(l []int, by string) string {
 	texts := make([]string, len(l))
 	for i, n := range l {
 		texts[i] = FormatInt(n)
 	}
-	return Join(texts, " ")
+	return Join(texts, by)
 }
 
 func ParseInts(s string) ([]int, bool) {
@@ -89,8 +93,14 @@ func ParseInts(s string) ([]int, bool) {
 	if s == "" {
 		return nil, true
 	}
+	return splitInts(s, ' ')
+}
+
+// splitInts returns the integers of which joinInts makes s; as the separator is
+// in no integer, there is no other list. It fails for the empty text.
+func splitInts(s string, separator rune) ([]int, bool) {
 	var l []int
-	for _, part := range pieces(s, ' ') {
+	for _, part := range pieces(s, separator) {
 		n, ok := ParseInt(part)
 		if !ok {
 			return nil, false
