@@ -122,7 +122,7 @@ func indicesOf(dims []int) [][]int {
 		var longer [][]int
 		for _, index := range indices {
 			for value := range d {
-				longer = append(longer, append(slices.Clone(index), value))
+				longer = append(longer, append(slices.Clip(index), value))
 			}
 		}
 		indices = longer
