@@ -585,6 +585,27 @@ func noReordering(t *testing.T, r impl.Ring, tensor impl.Tensor) {
 	same(t, r, tensor, impl.Tensor{}, false)
 }
 
+// withWrongData returns what becomes of a tensor when its Data is no longer
+// right.
+func withWrongData(r impl.Ring, tensor impl.Tensor) []impl.Tensor {
+	var wrong []impl.Tensor
+	add := func(data []int) {
+		wrong = append(wrong, impl.Tensor{Labels: tensor.Labels, Dims: tensor.Dims, Data: data})
+	}
+	length := len(tensor.Data)
+	for _, at := range []int{0, length / 2, length - 1} {
+		for _, n := range []int{-1, topOf(r) + 1, math.MaxInt} {
+			data := slices.Clone(tensor.Data)
+			data[at] = n
+			add(data)
+		}
+	}
+	add(slices.Clone(tensor.Data[:length-1]))
+	add(append(slices.Clone(tensor.Data), 0))
+	add(append(slices.Clone(tensor.Data), tensor.Data[:impl.RingWidth(r)]...))
+	return wrong
+}
+
 func TestNoTensorsAreReordered(t *testing.T) {
 	for _, a := range notAxes {
 		for _, data := range [][]int{nil, {0}, dataOf(a.dims)} {
@@ -593,19 +614,9 @@ func TestNoTensorsAreReordered(t *testing.T) {
 	}
 	for _, r := range fullRings() {
 		for i, c := range axesCases[:15] {
-			tensor := tensorWith(c.axes, elemsFor(r, c.size, i))
-			length := len(tensor.Data)
-			for _, at := range []int{0, length / 2, length - 1} {
-				for _, n := range []int{-1, topOf(r) + 1, math.MaxInt} {
-					wrong := cloneTensor(tensor)
-					wrong.Data[at] = n
-					noReordering(t, r, wrong)
-				}
+			for _, wrong := range withWrongData(r, tensorWith(c.axes, elemsFor(r, c.size, i))) {
+				noReordering(t, r, wrong)
 			}
-			short, long := cloneTensor(tensor), cloneTensor(tensor)
-			short.Data, long.Data = short.Data[:length-1], append(long.Data, 0)
-			noReordering(t, r, short)
-			noReordering(t, r, long)
 		}
 	}
 	// Other labels do not make a tensor of these.
@@ -662,35 +673,43 @@ func TestReorderedTensorsStay(t *testing.T) {
 	}
 }
 
-// Lists of the same content and length could be a single one in a result.
+// partsApart takes the results to have l as each of their lists: lists of the
+// same content and length could be a single one.
+func partsApart(t *testing.T, l []int, results ...impl.Tensor) {
+	t.Helper()
+	want := slices.Clone(l)
+	for _, got := range results {
+		for n, part := range [][]int{got.Labels, got.Dims, got.Data} {
+			sameList(t, "a part of a tensor", part, want)
+			spoil(part, 7+n)
+		}
+		sameList(t, "the list", l, want)
+	}
+}
+
 func TestPartsOfReorderedTensorsAreApart(t *testing.T) {
 	r := capRing(1)
 	l := []int{1}
 	tensor := impl.Tensor{Labels: l, Dims: l, Data: l}
 	permuted, _ := impl.PermuteTensor(r, tensor, l)
 	relabelled, _ := impl.RelabelTensor(r, tensor, l, l)
-	for _, got := range []impl.Tensor{permuted, impl.SortTensor(r, tensor), relabelled} {
-		sameList(t, "the labels", got.Labels, []int{1})
-		spoil(got.Labels, 7)
-		sameList(t, "the dimensions", got.Dims, []int{1})
-		spoil(got.Dims, 8)
-		sameList(t, "the data", got.Data, []int{1})
-		spoil(got.Data, 9)
-		sameList(t, "the list", l, []int{1})
-	}
+	partsApart(t, l, permuted, impl.SortTensor(r, tensor), relabelled)
+}
+
+// brokenTensors are no tensors over polyRing(7, 2), each for another reason.
+var brokenTensors = []impl.Tensor{
+	{Labels: []int{4, 3}, Dims: []int{2, 1}, Data: []int{1, 2, 3, 7}},
+	{Labels: []int{4, 3}, Dims: []int{2, 1}, Data: []int{1, 2, 3}},
+	{Labels: []int{3, 3}, Dims: []int{2, 1}, Data: []int{1, 2, 3, 4}},
+	{Labels: []int{4, 3}, Dims: []int{0, 9}, Data: []int{1, 2, 3, 4}},
+	{Labels: []int{4}, Dims: []int{2, 1}, Data: []int{1, 2, 3, 4}},
 }
 
 func TestInvalidTensorsStayWhenReordered(t *testing.T) {
 	r := polyRing(7, 2)
-	for _, before := range []impl.Tensor{
-		{Labels: []int{4, 3}, Dims: []int{2, 1}, Data: []int{1, 2, 3, 7}},
-		{Labels: []int{4, 3}, Dims: []int{2, 1}, Data: []int{1, 2, 3}},
-		{Labels: []int{3, 3}, Dims: []int{2, 1}, Data: []int{1, 2, 3, 4}},
-		{Labels: []int{4, 3}, Dims: []int{0, 9}, Data: []int{1, 2, 3, 4}},
-		{Labels: []int{4}, Dims: []int{2, 1}, Data: []int{1, 2, 3, 4}},
-		// This one is valid, but the lists of labels below do not suit it.
-		{Labels: []int{4, 3}, Dims: []int{2, 1}, Data: []int{1, 2, 3, 4}},
-	} {
+	// The last one is valid, but the lists of labels below do not suit it.
+	valid := impl.Tensor{Labels: []int{4, 3}, Dims: []int{2, 1}, Data: []int{1, 2, 3, 4}}
+	for _, before := range append(slices.Clone(brokenTensors), valid) {
 		tensor := spareTensor(before)
 		wrong, from, to := withSpare([]int{4, 2}, -9), withSpare([]int{4, 3}, -9), withSpare([]int{100, 7}, -9)
 		noPermutation(t, r, tensor, wrong)
