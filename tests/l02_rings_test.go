@@ -473,6 +473,7 @@ func lawsHold(r impl.Ring, x []int, y []int, z []int) bool {
 }
 
 func TestLawsOfRings(t *testing.T) {
+	t.Parallel()
 	for _, c := range ringCases {
 		// A prime near MaxPrime is looked for anew in every call.
 		elems := edgeElems(c.r, c.width, c.top)

@@ -310,6 +310,7 @@ func TestTextsOfManyElems(t *testing.T) {
 }
 
 func TestTextsOfNoElems(t *testing.T) {
+	t.Parallel()
 	for _, c := range ringCases {
 		for _, x := range notElems(c.width, c.top) {
 			if got := impl.FormatElem(c.r, x); got != "" {

@@ -446,6 +446,7 @@ func TestIndices(t *testing.T) {
 }
 
 func TestAllIndices(t *testing.T) {
+	t.Parallel()
 	for _, c := range axesCases {
 		for _, data := range [][]int{nil, {-1}, make([]int, c.size+1)} {
 			tensor := c.tensor()
@@ -512,6 +513,7 @@ func TestElemAt(t *testing.T) {
 }
 
 func TestSetElem(t *testing.T) {
+	t.Parallel()
 	a := impl.Tensor{Labels: []int{5, 2}, Dims: []int{2, 3}, Data: []int{0, 1, 2, 3, 4, 5}}
 	got := impl.SetElem(modRing(7), a, []int{1, 1}, []int{6})
 	sameTensor(t, "a tensor with the element at 1 1 changed", got, impl.Tensor{Labels: []int{5, 2}, Dims: []int{2, 3}, Data: []int{0, 1, 2, 3, 6, 5}})

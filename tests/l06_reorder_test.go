@@ -163,6 +163,7 @@ func TestPermuteTensor(t *testing.T) {
 }
 
 func TestPermuteManyTensors(t *testing.T) {
+	t.Parallel()
 	for _, r := range fullRings() {
 		for i, c := range axesCases {
 			elems := elemsFor(r, c.size, i)
@@ -205,6 +206,7 @@ func TestEveryOrderOfThreeLabels(t *testing.T) {
 // Values that no two elements share show that each element is at the same
 // index value for each label, not only an equal one.
 func TestElementsKeepTheirIndices(t *testing.T) {
+	t.Parallel()
 	r := modRing(1000003)
 	for _, c := range axesCases {
 		tensor := c.tensor()
@@ -270,6 +272,7 @@ func TestEveryListOfFewLabels(t *testing.T) {
 }
 
 func TestSortTensor(t *testing.T) {
+	t.Parallel()
 	a := impl.Tensor{Labels: []int{5, 2}, Dims: []int{3, 2}, Data: []int{0, 3, 1, 4, 2, 5}}
 	ascended := impl.Tensor{Labels: []int{2, 5}, Dims: []int{2, 3}, Data: []int{0, 1, 2, 3, 4, 5}}
 	sameTensor(t, "a tensor in ascending order", impl.SortTensor(modRing(7), a), ascended)
@@ -414,6 +417,7 @@ func TestRelabelWithEveryShortList(t *testing.T) {
 }
 
 func TestRelabelManyTensors(t *testing.T) {
+	t.Parallel()
 	for _, r := range fullRings() {
 		for i, c := range axesCases {
 			tensor := tensorWith(c.axes, elemsFor(r, c.size, i))
@@ -482,6 +486,7 @@ func TestSameTensor(t *testing.T) {
 }
 
 func TestSameTensorOfManyTensors(t *testing.T) {
+	t.Parallel()
 	for _, r := range fullRings() {
 		top := topOf(r)
 		for i, c := range axesCases {
@@ -635,6 +640,7 @@ func TestTensorsOfInvalidRingsAreNotReordered(t *testing.T) {
 }
 
 func TestReorderedTensorsStay(t *testing.T) {
+	t.Parallel()
 	for _, r := range fullRings() {
 		for i, c := range axesCases {
 			elems := elemsFor(r, c.size, i)

@@ -149,6 +149,7 @@ func TestAddAndMultiplyTensors(t *testing.T) {
 }
 
 func TestCombineManyTensors(t *testing.T) {
+	t.Parallel()
 	for _, r := range fullRings() {
 		for i, c := range axesCases {
 			first, second := elemsFor(r, c.size, i), elemsFor(r, c.size, 3*i+1)
@@ -223,6 +224,7 @@ func TestCombineThreeAxesInEveryOrder(t *testing.T) {
 
 // Elements that tell where they come from show which two have met.
 func TestElementsMeetThoseWithTheSameIndices(t *testing.T) {
+	t.Parallel()
 	r := polyRing(1000003, 3)
 	for _, c := range axesCases {
 		a := c.tensor()
@@ -289,6 +291,7 @@ func otherAxes(a axes) []axes {
 }
 
 func TestTensorsWithOtherAxesAreNotCombined(t *testing.T) {
+	t.Parallel()
 	for _, r := range []impl.Ring{boolRing(), minRing(9), polyRing(7, 2), omegaRing(17)} {
 		for i, c := range axesCases {
 			tensor := tensorWith(c.axes, elemsFor(r, c.size, i))
@@ -566,6 +569,7 @@ func noLinear(t *testing.T, r impl.Ring, tensor impl.Tensor, other impl.Tensor) 
 }
 
 func TestNoTensorsAreCombined(t *testing.T) {
+	t.Parallel()
 	for _, a := range notAxes {
 		for _, data := range [][]int{nil, {0}, {0, 0}, dataOf(a.dims)} {
 			tensor := impl.Tensor{Labels: a.labels, Dims: a.dims, Data: data}
@@ -606,6 +610,7 @@ func TestTensorsOfInvalidRingsAreNotCombined(t *testing.T) {
 }
 
 func TestLawsOfTensors(t *testing.T) {
+	t.Parallel()
 	for _, r := range fullRings() {
 		for i, c := range axesCases {
 			if c.size > 1000 && i%4 != r.Kind%4 {
@@ -643,6 +648,7 @@ func TestLawsOfTensors(t *testing.T) {
 }
 
 func TestMapsKeepSumsAndProductsOfTensors(t *testing.T) {
+	t.Parallel()
 	for k, c := range slices.Concat(smallHoms(), greatHoms()) {
 		for i, a := range axesCases {
 			if a.size > 30 && (i+k)%100 != 0 {
@@ -665,6 +671,7 @@ func TestMapsKeepSumsAndProductsOfTensors(t *testing.T) {
 }
 
 func TestCombinedTensorsStay(t *testing.T) {
+	t.Parallel()
 	for _, r := range fullRings() {
 		for i, c := range axesCases {
 			first, second := elemsFor(r, c.size, i), elemsFor(r, c.size, 2*i+1)

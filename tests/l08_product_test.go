@@ -331,6 +331,7 @@ func someKeeps(a axes, b axes) [][]int {
 }
 
 func TestContractManyPairs(t *testing.T) {
+	t.Parallel()
 	for _, r := range fullRings() {
 		for i, c := range somePairs {
 			for _, axes := range [][2]axes{c, {c[1], c[0]}} {
@@ -441,6 +442,7 @@ func TestContractEveryTwoElements(t *testing.T) {
 }
 
 func TestContractAllSmallTensors(t *testing.T) {
+	t.Parallel()
 	tensors := smallTensors()
 	r := boolRing()
 	for _, a := range tensors {
@@ -755,6 +757,7 @@ func TestSumLabels(t *testing.T) {
 }
 
 func TestSumManyTensors(t *testing.T) {
+	t.Parallel()
 	for _, r := range fullRings() {
 		for i, c := range axesCases {
 			tensor := tensorWith(c.axes, elemsFor(r, c.size, i))
@@ -886,6 +889,7 @@ func noProducts(t *testing.T, r impl.Ring, tensor impl.Tensor, other impl.Tensor
 }
 
 func TestNoProductsOfWrongTensors(t *testing.T) {
+	t.Parallel()
 	for _, a := range notAxes {
 		for _, data := range [][]int{nil, {0}, {0, 0}, dataOf(a.dims)} {
 			tensor := impl.Tensor{Labels: a.labels, Dims: a.dims, Data: data}
@@ -914,6 +918,7 @@ func TestNoProductsOfWrongTensors(t *testing.T) {
 }
 
 func TestNoProductsOverInvalidRings(t *testing.T) {
+	t.Parallel()
 	for _, r := range notRings {
 		for _, c := range axesCases[:12] {
 			for _, data := range [][]int{nil, make([]int, c.size), make([]int, 4*c.size), make([]int, max(0, min(r.N, 9))*c.size)} {
@@ -927,6 +932,7 @@ func TestNoProductsOverInvalidRings(t *testing.T) {
 
 // These tensors are contracted in every order with the same result.
 func TestContractThreeInEveryOrder(t *testing.T) {
+	t.Parallel()
 	cases := [][3]axes{
 		{{[]int{0, 1}, []int{2, 3}}, {[]int{1, 2}, []int{3, 2}}, {[]int{2, 3}, []int{2, 4}}},
 		{{[]int{0, 1}, []int{2, 3}}, {[]int{1, 2}, []int{3, 2}}, {[]int{0, 2}, []int{2, 2}}},
@@ -963,6 +969,7 @@ func TestContractThreeInEveryOrder(t *testing.T) {
 }
 
 func TestLawsOfProducts(t *testing.T) {
+	t.Parallel()
 	for _, r := range fullRings() {
 		for i, c := range somePairs {
 			a := tensorWith(c[0], elemsFor(r, countOf(c[0].dims), i))

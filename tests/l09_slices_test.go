@@ -228,6 +228,7 @@ func TestSliceManyTensors(t *testing.T) {
 
 // Values that no two elements share show where each one comes from.
 func TestSlicesKeepTheirIndices(t *testing.T) {
+	t.Parallel()
 	r := modRing(1000003)
 	for _, c := range axesCases {
 		tensor := c.tensor()
@@ -321,6 +322,7 @@ func stackOf(r impl.Ring, a axes, n int, orders ...[]int) []impl.Tensor {
 }
 
 func TestStackManyTensors(t *testing.T) {
+	t.Parallel()
 	for _, r := range fullRings() {
 		for i, c := range axesCases {
 			for n := 1; n <= 8; n++ {
@@ -657,6 +659,7 @@ func TestNoFixedLabels(t *testing.T) {
 }
 
 func TestFixEveryShortList(t *testing.T) {
+	t.Parallel()
 	for _, r := range []impl.Ring{modRing(1000003), polyRing(7, 2)} {
 		for _, a := range []axes{{nil, nil}, {[]int{1}, []int{2}}, {[]int{2, 0}, []int{2, 3}}, {[]int{0, 2, 1}, []int{1, 3, 2}}} {
 			tensor := tensorWith(a, elemsFor(r, countOf(a.dims), 1))
@@ -670,6 +673,7 @@ func TestFixEveryShortList(t *testing.T) {
 }
 
 func TestFixManyTensors(t *testing.T) {
+	t.Parallel()
 	for _, r := range fullRings() {
 		for i, c := range axesCases {
 			tensor := tensorWith(c.axes, elemsFor(r, c.size, i))
@@ -863,6 +867,7 @@ func TestStacksOfSlices(t *testing.T) {
 }
 
 func TestLawsOfSlices(t *testing.T) {
+	t.Parallel()
 	for _, r := range fullRings() {
 		for i, c := range axesCases {
 			if c.size > 1000 && (i+r.Kind+r.N)%4 != 0 {
@@ -946,6 +951,7 @@ func TestMapsKeepSlices(t *testing.T) {
 }
 
 func TestSlicedTensorsStay(t *testing.T) {
+	t.Parallel()
 	for _, r := range fullRings() {
 		for i, c := range axesCases {
 			before := tensorWith(c.axes, elemsFor(r, c.size, i))

@@ -349,6 +349,7 @@ func someFused(a axes) [][]int {
 }
 
 func TestFuseManyTensors(t *testing.T) {
+	t.Parallel()
 	for j, r := range fullRings() {
 		for i, c := range axesCases {
 			tensor := tensorWith(c.axes, elemsFor(r, c.size, i))
@@ -386,6 +387,7 @@ func TestFuseManyTensors(t *testing.T) {
 
 // All the lists of labels that can be fused, at all places of four axes.
 func TestFusesAtEveryPlace(t *testing.T) {
+	t.Parallel()
 	all := []int{8, 3, 99, 0}
 	for _, r := range []impl.Ring{modRing(1000003), polyRing(7, 2)} {
 		for _, dims := range listsOf(4, 1, 2, 3) {
@@ -405,6 +407,7 @@ func TestFusesAtEveryPlace(t *testing.T) {
 
 // Values that no two elements share show where each one comes from.
 func TestFusesKeepTheirIndices(t *testing.T) {
+	t.Parallel()
 	r := modRing(1000003)
 	for _, c := range axesCases {
 		tensor := c.tensor()
@@ -573,6 +576,7 @@ func someDims(product int, n int) [][]int {
 }
 
 func TestSplitManyTensors(t *testing.T) {
+	t.Parallel()
 	for j, r := range fullRings() {
 		for i, c := range axesCases {
 			tensor := tensorWith(c.axes, elemsFor(r, c.size, i))
@@ -621,6 +625,7 @@ func TestSplitManyTensors(t *testing.T) {
 // All the places and dimensions that an axis of three can have, split in all
 // ways.
 func TestSplitsAtEveryPlace(t *testing.T) {
+	t.Parallel()
 	labels := []int{8, 3, 99}
 	for _, r := range []impl.Ring{modRing(1000003), polyRing(7, 2)} {
 		for _, dims := range listsOf(3, 1, 2, 4, 6) {
@@ -640,6 +645,7 @@ func TestSplitsAtEveryPlace(t *testing.T) {
 
 // Values that no two elements share show where each one comes from.
 func TestSplitsKeepTheirIndices(t *testing.T) {
+	t.Parallel()
 	r := modRing(1000003)
 	for _, c := range axesCases {
 		tensor := c.tensor()
@@ -669,6 +675,7 @@ func TestSplitsKeepTheirIndices(t *testing.T) {
 }
 
 func TestEveryListAfterASplit(t *testing.T) {
+	t.Parallel()
 	r := polyRing(7, 2)
 	for _, a := range []axes{{nil, nil}, {[]int{2}, []int{4}}, {[]int{2}, []int{1}}, {[]int{3, 2}, []int{2, 6}}, {[]int{2, 0}, []int{2, 3}}, {[]int{0, 2, 3}, []int{1, 4, 1}}} {
 		tensor := tensorWith(a, elemsFor(r, countOf(a.dims), 1))
@@ -856,6 +863,7 @@ func noFuses(t *testing.T, r impl.Ring, tensor impl.Tensor) {
 }
 
 func TestNoFusesOfWrongTensors(t *testing.T) {
+	t.Parallel()
 	for _, a := range notAxes {
 		for _, data := range [][]int{nil, {0}, {0, 0}, dataOf(a.dims)} {
 			tensor := impl.Tensor{Labels: a.labels, Dims: a.dims, Data: data}
@@ -932,6 +940,7 @@ func TestFusesLookAtTheRing(t *testing.T) {
 }
 
 func TestLawsOfFuses(t *testing.T) {
+	t.Parallel()
 	for j, r := range fullRings() {
 		for i, c := range axesCases {
 			if c.size > 1000 && (i+j)%7 != 0 {
@@ -1139,6 +1148,7 @@ func TestMapsKeepFuses(t *testing.T) {
 }
 
 func TestFuseAllSmallTensors(t *testing.T) {
+	t.Parallel()
 	r := boolRing()
 	for _, tensor := range smallTensors() {
 		for _, labels := range listsOf(3, 0, 1, 2) {
