@@ -1008,7 +1008,8 @@ func TestNetworksInCommonMemory(t *testing.T) {
 	sameList(t, "the list", l, []int{1, 2, 1, 2})
 }
 
-func TestInvalidNetworksStay(t *testing.T) {
+// wrongNetworks are not valid, each for another reason.
+func wrongNetworks() []impl.Network {
 	r := polyRing(7, 2)
 	good := impl.Tensor{Labels: []int{4, 3}, Dims: []int{2, 1}, Data: []int{1, 2, 3, 4}}
 	nets := []impl.Network{
@@ -1021,7 +1022,14 @@ func TestInvalidNetworksStay(t *testing.T) {
 	for _, wrong := range brokenTensors {
 		nets = append(nets, impl.Network{Ring: r, Tensors: []impl.Tensor{good, wrong}, Open: []int{4}})
 	}
-	for _, before := range nets {
+	// Open with too many labels, and with too great dimensions.
+	many, large := blocks(slices.Repeat([]int{1}, 12), []int{1}), blocks([]int{8, 8, 8}, []int{8, 2})
+	many.Open, large.Open = countUp(13), countUp(5)
+	return append(nets, many, large)
+}
+
+func TestInvalidNetworksStay(t *testing.T) {
+	for _, before := range wrongNetworks() {
 		n := spareNetwork(before)
 		noNetwork(t, n)
 		networkStays(t, n, before)
